@@ -101,18 +101,12 @@ func (c *checker) callGeneric(n api.Node, number int, given []api.Node) operand 
 		known = append(known, c.typeOf(g))
 	}
 	sig, args := c.objects[number].Type, c.valuesOf(n.Kids[1:])
-	found, err := unify.Infer(c.World, taking(sig, n.Text), params, known, told(args))
+	found, err := unify.Infer(c.World, sig, params, known, told(args))
 	must(err == api.OK, "type arguments are not to be found")
 	for _, t := range found {
 		must(t.Kind == api.TypeParam || !hasParam(t), "a type argument is made of a type parameter")
 	}
 	return c.pass(types.Subst(sig, found), n.Text, args)
-}
-
-// taking is what a function takes of a call's arguments: where they end with `...`, the last one is the list itself.
-func taking(sig api.Type, text string) api.Type {
-	sig.Flag = sig.Flag && text != dots
-	return sig
 }
 
 // told is arguments as package unify wants them.

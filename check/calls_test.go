@@ -36,9 +36,10 @@ func TestGenericCalls(t *testing.T) {
 		pair{"func x[T any](y T) { x[[]T](nil) }", "func x[T any](y T) { x[T](y) }"}, pair{"func x[T any](y T) { x([]T{y}) }", "func x[T any](y T) { x([]int{}) }"}, pair{"func x[T any](y T) { x(&y) }", "func x[T any](y T) { x(y) }"}, pair{"func x[T any](y T) { z(func() T { return y }) }; func z[U any](u U) {}", "func x[T any](y T) { z(func() int { return 1 }) }; func z[U any](u U) {}"}, pair{"func x[T any](y T) { z[chan T](nil) }; func z[U any](u U) {}", "func x[T any](y T) { z[chan int](nil) }; func z[U any](u U) {}"},
 		pair{"func x[T any, U any](y T, z U) { x(z, []U{z}) }", "func x[T any, U any](y T, z U) { x(z, y) }"}, pair{"func x[T any](y T) { z(y, *new(*T)) }; func z[U any, V any](u U, v V) {}", "func x[T any](y T) { z(y, y) }; func z[U any, V any](u U, v V) {}"})
 	taken(t, "P13.1: type arguments", alone("func x[T any](y []T, z *T) { if len(y) > 0 { x(y, z) } }"))
-	taken(t, "P13.1: lists", alone("func x[T any](y ...T) []T { return y }; func f(s []string) []string { return x(s...) }; func g(s []string) []string { return x[string](s...) }"))
-	rejected(t, "P13.1: lists", alone("func x[T any](y ...T) []T { return y }; func f(s []string) []string { return x(\"a\", s...) }"))
-	rejected(t, "P13.1: lists", alone("func x[T any](y ...T) []T { return y }; func f(s []string) []string { return x[int](s...) }"))
+	// What is found out of a list is what is found out of any argument: the type of one of many, which a list of them is not.
+	differ(t, "lists", alone,
+		pair{"func x[T any](y ...T) {}; func f(s []string) { x(s...) }", "func x[T any](y ...T) {}; func f(s []string) { x(s) }"}, pair{"func x[T any](y ...T) {}; func f(s []string) { x[string](s...) }", "func x[T any](y ...T) {}; func f(s []string) { x[string](s[0]) }"}, pair{"func x[T any](y T, z ...T) {}; func f(s []string) { x(\"a\", s...) }", "func x[T any](y T, z []T) {}; func f(s []string) { x(\"a\", s) }"},
+		pair{"func x[T any](y T, z ...string) {}; func f(s []int) { x(1, s...) }", "func x[T any](y T, z ...string) {}; func f(s []string) { x(1, s...) }"}, pair{"func x[T any](y T, z ...string) {}; func f(s []string) { x(1, \"a\", s...) }", "func x[T any](y T, z ...string) {}; func f(s []string) { x(1, \"a\", s[0]) }"})
 	differ(t, "generic functions of packages", abroad, pair{"_ = b.G", "_ = b.G(1)"}, pair{"_ = b.G[int](\"a\")", "_ = b.G[int](1)"}, pair{"b.Call(w)", "b.Call(s)"}, pair{"b.Call[b.K](s)", "b.Call[b.I](b.U)"}, pair{"b.Call(1)", "b.Call(E{})"}, pair{"_ = (b.G)(1)", "_ = b.G((1))"})
 }
 
