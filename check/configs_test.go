@@ -83,3 +83,22 @@ func TestNone(t *testing.T) {
 		}
 	}
 }
+
+func TestEach(t *testing.T) {
+	m := loaded(t, files("main/a.gc", "package main; func main() {}", "main/b.gc", "//build t || u\npackage main; var x = 1", "main/c.gc", "//build v\npackage main; var x = 2", "main/d.gc", "//build w && !w\npackage main; var z = 1"))
+	var got []string
+	for r, fault := range check.Each(m) {
+		got = append(got, fmt.Sprint(len(r.Info.Objects), fault.Code))
+	}
+	if want := "1 0,2 0,2 0,0 8"; strings.Join(got, ",") != want {
+		t.Errorf("Each tells %v, want %s: each set of files once, in the order of the sets of tags", got, want)
+	}
+	n := 0
+	for range check.Each(m) {
+		n++
+		break
+	}
+	if n != 1 {
+		t.Errorf("Each goes on behind a break: %d", n)
+	}
+}
