@@ -227,6 +227,20 @@ func TestFirstOfParens(t *testing.T) {
 	}
 }
 
+// What the first object of a module is says nothing of what stands for none.
+func TestFirstOfFirstObject(t *testing.T) {
+	for text, want := range map[string]string{
+		"package main; func f() int { (f)(); return 1 }; func main() {}":                      "(f)() | (f) | f",
+		"package main; func f() func() { f()(); return nil }; func main() {}":                 "f()() | f()",
+		"package main; import \"z\"; func f() *z.Z { f().X = 1; return nil }; func main() {}": "f()",
+	} {
+		s := checked(t, "main/a.gc", text, "z/z.gc", "package z; type Z struct { X int }")
+		if got := firsts(s, s.block(t, "f").Kids[0]); got != want {
+			t.Errorf("P15.3: of %s those are First: %s, want %s", text, got, want)
+		}
+	}
+}
+
 // A Return has a function of its own.
 func TestFirstOfReturn(t *testing.T) {
 	for results, want := range map[string]string{

@@ -112,17 +112,17 @@ func TestInertByShared(t *testing.T) {
 
 // What is no expression, and what is none that may be evaluated, is not inert.
 func TestInertOfNothing(t *testing.T) {
-	s, block := body(t, "_ = T{f: x}; _ = make([]int, x); _ = gen(x); _ = len(a); _ = N(x); _ = be.X; _ = b.C; _ = []T{}; x++; return; { x = 1 }; if q {}; _ = (*T)(p); _ = gen[int](x)")
+	s, block := body(t, "_ = T{f: x}; _ = make([]int, x); _ = gen(x); _ = len(a); _ = N(x); _ = be.X; _ = b.C; _ = []T{}; x++; return; { x = 1 }; if q {}; _ = (*T)(p); _ = gen[int](x); _ = \"t\"")
 	inert := map[string]int{}
 	for _, x := range tree.All(block) {
 		if flow.Inert(s.Result, s.path, s.shared(), x) {
 			inert[s.said(x)]++
 		}
-		if flow.Inert(s.Result, "main/b.gc", s.shared(), x) && x.Kind != api.NodeInt && x.Kind != api.NodeStr {
+		if flow.Inert(s.Result, "main/b.gc", s.shared(), x) != (x.Kind == api.NodeInt || x.Kind == api.NodeStr) {
 			t.Errorf("P15.2: Inert of %s, in a file that there is not", s.said(x))
 		}
 	}
-	want := map[string]int{"x": 7, "a": 1, "1": 1, "q": 1, "be": 1, "b.C": 1, "C": 1, "p": 1, "gen": 2}
+	want := map[string]int{"x": 7, "a": 1, "1": 1, "q": 1, "be": 1, "b.C": 1, "C": 1, "p": 1, "gen": 2, `"t"`: 1}
 	for text := range inert {
 		if inert[text] != want[text] {
 			t.Errorf("P15.2: %d times %s is Inert", inert[text], text)
